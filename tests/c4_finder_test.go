@@ -222,16 +222,11 @@ func lookedInRoot(t impl.Tree, root int, s string, entries []string) impl.Spec {
 	return spec
 }
 
-// lookedCached is FindCached of valid arguments.
-func lookedCached(f impl.Finder, d impl.Disk, path []int, s string) (impl.Finder, impl.Spec) {
-	above, _, deeper := cutLast(s)
-	if deeper {
-		var spec impl.Spec
-		f, spec = lookedCached(f, d, path, above)
-		path = spec.Roots
-	}
+// lookedCachedOver is what a finder finds of a name over some roots.
+func lookedCachedOver(f impl.Finder, d impl.Disk, roots []int, s string) (impl.Finder, impl.Spec) {
+	above, _, _ := cutLast(s)
 	all := impl.Spec{File: -1}
-	for _, root := range path {
+	for _, root := range roots {
 		var entries []string
 		f, entries = asked(f, d, root, above)
 		spec := lookedInRoot(d.Tree, root, s, entries)
@@ -244,6 +239,16 @@ func lookedCached(f impl.Finder, d impl.Disk, path []int, s string) (impl.Finder
 		all.Kind = 3
 	}
 	return f, all
+}
+
+// lookedCached is FindCached of valid arguments.
+func lookedCached(f impl.Finder, d impl.Disk, path []int, s string) (impl.Finder, impl.Spec) {
+	if above, _, deeper := cutLast(s); deeper {
+		var spec impl.Spec
+		f, spec = lookedCached(f, d, path, above)
+		path = spec.Roots
+	}
+	return lookedCachedOver(f, d, path, s)
 }
 
 // isStale is the rule of StaleDirs for one directory.

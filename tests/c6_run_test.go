@@ -166,10 +166,12 @@ func expectStories(t *testing.T, stories []story) {
 type ended int
 
 // machine is a model of runs. It looks for modules by their whole names, and what does not end with EnDone is a panic that
-// goes up through all imports.
+// goes up through all imports. A machine with a look or a load of its own looks for modules, or loads bodies, by that.
 type machine struct {
 	tree    impl.Tree
 	path    []int
+	look    func(m *machine, s string) impl.Spec
+	load    func(f impl.File) []impl.Stmt
 	left    int
 	cache   map[string]int
 	modules []impl.Module
@@ -210,6 +212,25 @@ func (m *machine) put(i int, name string, kind int, num int) {
 	}
 }
 
+// find looks for a name.
+func (m *machine) find(s string) impl.Spec {
+	if m.look != nil {
+		return m.look(m, s)
+	}
+	return looked(m.tree, m.path, s)
+}
+
+// loaded returns the body that is run for a file, nil if there is none.
+func (m *machine) loaded(file int) []impl.Stmt {
+	if file < 0 {
+		return nil
+	}
+	if m.load != nil {
+		return m.load(m.tree.Files[file])
+	}
+	return m.tree.Files[file].Body
+}
+
 // use imports a name, and returns its module.
 func (m *machine) use(s string) int {
 	above, last, deep := cutLast(s)
@@ -220,7 +241,7 @@ func (m *machine) use(s string) int {
 		m.log = append(m.log, impl.Event{Kind: impl.EvHit, Name: s})
 		return i
 	}
-	spec := looked(m.tree, m.path, s)
+	spec := m.find(s)
 	check(spec.Kind != impl.SpNone, impl.EnMissing)
 	i := len(m.modules)
 	m.modules = append(m.modules, impl.Module{Name: s, Kind: spec.Kind, Roots: spec.Roots, Cached: true})
@@ -242,10 +263,10 @@ func (m *machine) body(i int, file int) {
 	name := m.modules[i].Name
 	m.log = append(m.log, impl.Event{Kind: impl.EvStart, Name: name})
 	end := endOf(func() {
-		for at := 0; file >= 0 && at < len(m.tree.Files[file].Body); at++ {
+		for _, s := range m.loaded(file) {
 			check(m.left > 0, impl.EnFuel)
 			m.left--
-			m.step(i, m.tree.Files[file].Body[at])
+			m.step(i, s)
 		}
 	})
 	if end != impl.EnDone {
@@ -304,7 +325,7 @@ func (m *machine) taken(i int, name string) impl.Value {
 	child := m.modules[i].Name + "." + name
 	_, known := m.cache[child]
 	check(m.modules[i].Kind != impl.SpModule && strings.Count(child, ".") < 3, impl.EnAttr)
-	check(known || looked(m.tree, m.path, child).Kind != impl.SpNone, impl.EnAttr)
+	check(known || m.find(child).Kind != impl.SpNone, impl.EnAttr)
 	return impl.Value{Kind: impl.VaModule, Num: m.use(child)}
 }
 
@@ -324,7 +345,7 @@ func (m *machine) command(c impl.Command) {
 	above, _, deep := cutLast(c.Name)
 	_, known = m.cache[above]
 	check(known || !deep, impl.EnMissing)
-	m.body(i, looked(m.tree, m.path, c.Name).File)
+	m.body(i, m.find(c.Name).File)
 }
 
 // ran is RunCommands of valid arguments.
